@@ -65,13 +65,19 @@ func blocks(opening string, n int, inner string) (string, int) {
 	return s + inner + strings.Repeat("}", n+1), len(s)
 }
 
-func TestDeepStatements(t *testing.T) { // P3.1: a statement in n others is n + 1 deep
+func TestDeepStatements(t *testing.T) { // P3.1, P3.2: a statement in n others is n + 1 deep
 	for _, opening := range []string{"if(x){", "while(x){", "if(x){}else{", "var y;if(x){read y;}else{return;"} {
 		for _, inner := range []string{"", "var x;", "var bool x;", "var x[3];", "read x;", "return;", "g();", "x=g();", "read x;x=g();var y;"} {
 			s, _ := blocks(opening, api.MaxDeep-1, inner)
-			if _, at, e := syntax.Parse(s); at != 0 || e != api.OK {
+			p, at, e := syntax.Parse(s)
+			if at != 0 || e != api.OK {
 				t.Errorf("Parse(%q): %d, %d", s, at, e)
 			}
+			text, e := syntax.Print(p)
+			if e != api.OK {
+				t.Errorf("Print of %q: %d", s, e)
+			}
+			reads(t, text, p)
 		}
 		for _, inner := range []string{"return ^1;", "print ^1;", "assert ^x;", "x=^y;", "x=^(y);", "x=^-y;", "x=^1;", "x[^1]=2;", "g(^1);", "x=g(^1,2);", "if(^x){}", "while(^x){x=1;}", "read x;x=^y+g(1);", "x=^y", "x=^y}", "x=^y=1;"} {
 			ahead, behind, _ := strings.Cut(inner, "^")
