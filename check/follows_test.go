@@ -13,9 +13,9 @@ import (
 )
 
 // made is a right program, the same one for a seed in each run.
-func made(seed uint64) (api.Prog, bender) {
+func made(seed uint64) (api.Prog, *rand.Rand) {
 	r := rand.New(rand.NewPCG(seed, 4))
-	return sample.Prog(r.IntN), bender{r}
+	return sample.Prog(r.IntN), r
 }
 
 func TestCheckMade(t *testing.T) { // P4.1, P4.2 against a second reading
@@ -33,17 +33,17 @@ func TestCheckMade(t *testing.T) { // P4.1, P4.2 against a second reading
 func TestCheckBent(t *testing.T) { // P4.1, P4.2 against a second reading
 	found := map[api.Errno]int{}
 	for seed := range uint64(20000) {
-		p, b := made(seed)
-		for range 1 + b.IntN(3) {
-			b.bend(&p)
+		p, r := made(seed)
+		for range 1 + r.IntN(3) {
+			p = sample.Bent(r.IntN, p)
 		}
-		before := copied(p)
+		before := sample.Copy(p)
 		info, at, e := check.Check(p)
 		wantInfo, wantAt, wantE := checks(p)
 		if !same(info, wantInfo) || at != wantAt || e != wantE {
 			t.Fatalf("Check(%v) = %v, %v, %d; want %v, %v, %d", p, info, at, e, wantInfo, wantAt, wantE)
 		}
-		if !reflect.DeepEqual(before, copied(p)) {
+		if !reflect.DeepEqual(before, sample.Copy(p)) {
 			t.Fatalf("Check changed %v", before)
 		}
 		found[e]++
@@ -57,12 +57,10 @@ func TestCheckBent(t *testing.T) { // P4.1, P4.2 against a second reading
 
 func TestTypeOfMade(t *testing.T) { // P4.3 against a second reading
 	for seed := range uint64(2000) {
-		p, b := made(seed)
+		p, r := made(seed)
 		info := takesProg(t, p)
-		for range b.IntN(4) {
-			if l := exprs(p); len(l) > 0 {
-				b.bendExpr(&p, oneOf(b, l...))
-			}
+		for range r.IntN(4) {
+			p = sample.BentExpr(r.IntN, p)
 		}
 		for i, q := range p.Procs {
 			all := entries(q)
@@ -90,7 +88,7 @@ func TestStmtMade(t *testing.T) { // P4.4 against a second reading
 			for m := -1; m <= len(all)+2; m++ {
 				s, ok := check.Stmt(q, m)
 				inside := m >= 1 && m <= len(all)
-				if ok != inside || inside && !reflect.DeepEqual(copiedStmts([]api.Stmt{s}), copiedStmts([]api.Stmt{all[m-1].s})) {
+				if ok != inside || inside && !reflect.DeepEqual(sample.CopyStmts(s), sample.CopyStmts(all[m-1].s)) {
 					t.Fatalf("Stmt(%d) = %v, %v", m, s, ok)
 				}
 			}
@@ -100,35 +98,34 @@ func TestStmtMade(t *testing.T) { // P4.4 against a second reading
 
 // renamed is a procedure with a name of a variable changed throughout.
 func renamed(q api.Proc, from, to string) api.Proc {
-	p := copied(api.Prog{Procs: []api.Proc{q}})
+	change := func(name *string) {
+		if *name == from {
+			*name = to
+		}
+	}
+	p := sample.Changed(api.Prog{Procs: []api.Proc{q}}, func(s api.Stmt) api.Stmt {
+		change(&s.Name)
+		return s
+	}, func(x api.Expr) api.Expr {
+		change(&x.Name)
+		return x
+	})
 	for i := range p.Procs[0].Params {
-		if p.Procs[0].Params[i].Name == from {
-			p.Procs[0].Params[i].Name = to
-		}
-	}
-	for _, s := range stmts(p) {
-		if s.Name == from {
-			s.Name = to
-		}
-	}
-	for _, x := range exprs(p) {
-		if x.Name == from {
-			x.Name = to
-		}
+		change(&p.Procs[0].Params[i].Name)
 	}
 	return p.Procs[0]
 }
 
 func TestRenamed(t *testing.T) { // P4.5
 	for seed := range uint64(500) {
-		p, b := made(seed)
+		p, r := made(seed)
 		info := takesProg(t, p)
-		i := b.IntN(len(p.Procs))
+		i := r.IntN(len(p.Procs))
 		if len(info.Vars[i]) == 0 {
 			continue
 		}
-		k := b.IntN(len(info.Vars[i]))
-		q := copied(p)
+		k := r.IntN(len(info.Vars[i]))
+		q := sample.Copy(p)
 		q.Procs[i] = renamed(p.Procs[i], info.Vars[i][k].Name, "elsewhere")
 		info.Vars[i][k].Name = "elsewhere"
 		if got := takesProg(t, q); !same(got, info) {
@@ -142,7 +139,7 @@ func TestOneMore(t *testing.T) { // P4.6
 		p, _ := made(seed)
 		info := takesProg(t, p)
 		more := api.Proc{Name: "more", Params: []api.Param{{Name: "a", Type: api.Bool}}, Type: api.Bool, Body: []api.Stmt{{Kind: api.SReturn, E: list(named("a"))}}}
-		q := copied(p)
+		q := sample.Copy(p)
 		q.Procs = append(q.Procs, more)
 		info.Vars = append(info.Vars, []api.Var{{Name: "a", Type: api.Bool, To: 2}})
 		info.Marks = append(info.Marks, 1)
@@ -193,11 +190,11 @@ func spoilExprs(l []api.Expr) {
 
 func TestStmtIsOwn(t *testing.T) { // what is answered is new memory
 	p := parsed(t, "proc main(){var a[2];if(a[1]<2){a[a[0]]=1+2*3;while(!(a[0]==1)){print -1;}}else{return;}}")
-	before := copied(p)
+	before := sample.Copy(p)
 	for m := 1; m <= 6; m++ {
 		s, _ := check.Stmt(p.Procs[0], m)
 		spoil([]api.Stmt{s})
-		if !reflect.DeepEqual(before, copied(p)) {
+		if !reflect.DeepEqual(before, sample.Copy(p)) {
 			t.Fatalf("the statement at %d is the program's", m)
 		}
 	}
@@ -301,9 +298,9 @@ func FuzzCheck(f *testing.F) {
 			picks = picks[1:]
 			return k
 		})
-		b := bender{rand.New(rand.NewPCG(seed, 5))}
+		r := rand.New(rand.NewPCG(seed, 5))
 		for range seed % 4 {
-			b.bend(&p)
+			p = sample.Bent(r.IntN, p)
 		}
 		info, at, e := check.Check(p)
 		wantInfo, wantAt, wantE := checks(p)

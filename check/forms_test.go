@@ -7,6 +7,7 @@ import (
 
 	"parallax/api"
 	"parallax/check"
+	"parallax/sample"
 )
 
 func whole(n int64) api.Expr        { return api.Expr{Kind: api.EInt, Num: n} }
@@ -292,7 +293,7 @@ func TestStmtCount(t *testing.T) { // P4.4
 			t.Errorf("Stmt(%d) = %v, %v", i+1, s, ok)
 		}
 	}
-	if s, _ := check.Stmt(p, 2); !reflect.DeepEqual(copiedStmts([]api.Stmt{s}), copiedStmts(p.Body[1:2])) {
+	if s, _ := check.Stmt(p, 2); !reflect.DeepEqual(sample.CopyStmts(s), sample.CopyStmts(p.Body[1])) {
 		t.Errorf("Stmt(2) = %v", s)
 	}
 	for _, mark := range []int{0, 11, 12, -1, math.MaxInt, math.MinInt} {

@@ -59,3 +59,25 @@ func TestProg(t *testing.T) {
 		}
 	}
 }
+
+func TestBent(t *testing.T) {
+	wrong := 0
+	for seed := range uint64(2000) {
+		r := rand.New(rand.NewPCG(seed, 2))
+		p := sample.Prog(r.IntN)
+		before := sample.Copy(p)
+		q := sample.Bent(r.IntN, sample.BentExpr(r.IntN, p))
+		if _, _, e := check.Check(q); e != api.OK {
+			wrong++
+		}
+		if !reflect.DeepEqual(sample.Copy(p), before) {
+			t.Fatalf("%v was changed", before)
+		}
+	}
+	if wrong < 1000 {
+		t.Errorf("%d are wrong", wrong)
+	}
+	if q := sample.Bent(func(int) int { return 0 }, api.Prog{}); len(q.Procs) > 0 {
+		t.Errorf("%v of nothing", q)
+	}
+}
