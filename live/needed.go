@@ -11,7 +11,7 @@ type use struct {
 	sets  int
 }
 
-func uses(steps []flow.Step, vars []api.Var) []use {
+func usesOf(steps []flow.Step, vars []api.Var) []use {
 	l := make([]use, len(steps))
 	for mark, s := range steps {
 		for _, i := range Reads(s.Stmt, vars, mark) {
@@ -22,8 +22,8 @@ func uses(steps []flow.Step, vars []api.Var) []use {
 	return l
 }
 
-// ahead are, of each mark, those of which it comes next.
-func ahead(steps []flow.Step) [][]int {
+// aheadOf are, of each mark, those of which it comes next.
+func aheadOf(steps []flow.Step) [][]int {
 	l := make([][]int, len(steps))
 	for mark, s := range steps {
 		for _, next := range s.Next() {
@@ -35,8 +35,8 @@ func ahead(steps []flow.Step) [][]int {
 
 // needed is what is needed at each mark. Marks wait to be looked at, the last one first, as what is needed grows from behind; those ahead of one at which it has grown wait anew.
 func needed(steps []flow.Step, vars []api.Var) []set {
-	uses, ahead := uses(steps, vars), ahead(steps)
-	needed := make([]set, len(steps))
+	uses, ahead := usesOf(steps, vars), aheadOf(steps)
+	sets := make([]set, len(steps))
 	var waiting []int
 	for mark := range steps {
 		waiting = append(waiting, mark)
@@ -47,15 +47,15 @@ grow:
 		waiting = waiting[:len(waiting)-1]
 		var grown set
 		for _, next := range steps[mark].Next() {
-			grown.join(needed[next])
+			grown.join(sets[next])
 		}
 		grown.drop(uses[mark].sets)
 		grown.join(uses[mark].reads)
-		if grown == needed[mark] {
+		if grown == sets[mark] {
 			continue grow
 		}
-		needed[mark] = grown
+		sets[mark] = grown
 		waiting = append(waiting, ahead[mark]...)
 	}
-	return needed
+	return sets
 }
