@@ -43,8 +43,10 @@ func (k knower) answer(x api.Expr) reply {
 
 func (k knower) leaf(x api.Expr) reply {
 	switch x.Kind {
-	case api.EInt, api.EBool:
-		return worth(x)
+	case api.EInt:
+		return numbered(x.Num)
+	case api.EBool:
+		return trueOrFalse(x.Num)
 	case api.EVar:
 		return k.variable(x.Name)
 	}
@@ -53,7 +55,15 @@ func (k knower) leaf(x api.Expr) reply {
 
 func numbered(n int64) reply { return reply{number, n} }
 
-// worth is the number that an expression of numbers is.
+// trueOrFalse is the answer of an EBool: one of another number is neither, so it is not built as it must be.
+func trueOrFalse(n int64) reply {
+	if n != 0 && n != 1 {
+		return reply{}
+	}
+	return numbered(n)
+}
+
+// worth is the number that a sign makes of numbers.
 func worth(x api.Expr) reply {
 	n, _ := fold.Eval(x, fold.Env{})
 	return numbered(n)

@@ -114,6 +114,29 @@ func TestAnswerForms(t *testing.T) { // P7.2: what is not built as it must be is
 	answers(t, named("a"), "?")
 }
 
+func TestAnswerNoTruth(t *testing.T) { // P7.2: an EBool of another number than 1 and 0 is neither true nor false, and answered by nothing
+	trap := two(whole(1), "/", whole(0))
+	for _, n := range []int64{2, -1, 3, 1 << 32, 1<<32 + 1, 1 << 40, math.MaxInt64, math.MinInt64, math.MinInt64 + 1} {
+		no := truth(n)
+		for _, x := range []api.Expr{
+			no, sign("!", no), sign("-", no), sign("!", sign("!", no)), index("a", no), index("nope", no),
+			two(no, "&&", truth(0)), two(no, "&&", truth(1)), two(no, "&&", trap), two(truth(1), "&&", no), two(no, "||", truth(0)), two(no, "||", truth(1)), two(no, "||", trap), two(truth(0), "||", no),
+			two(no, "==", no), two(no, "!=", truth(1)), two(truth(0), "==", no), two(no, "<", whole(9)), two(no, "<=", no), two(no, "+", whole(0)), two(whole(4), "-", no), two(no, "*", whole(0)), two(no, "/", whole(1)), two(whole(0), "/", no), two(whole(0), "%", no),
+		} {
+			answers(t, x, "?")
+		}
+		answers(t, two(truth(0), "&&", no), "0")
+		answers(t, two(truth(1), "||", no), "1")
+		for _, x := range []api.Expr{two(no, "/", whole(0)), two(no, "%", truth(0)), two(no, "==", trap), two(trap, "==", no), two(trap, "&&", no), two(trap, "||", no)} {
+			answers(t, x, "!")
+		}
+	}
+	answers(t, truth(0), "0")
+	answers(t, truth(1), "1")
+	answers(t, sign("!", truth(1)), "0")
+	answers(t, two(truth(1), "==", truth(0)), "0")
+}
+
 func TestAnswerStates(t *testing.T) { // P7.2: names at the mark, and states that say less
 	vars, s := someVars()
 	for mark, want := range map[int]string{math.MinInt: "?", -1: "?", 0: "?", 1: "5", 9: "5", 10: "?", math.MaxInt: "?"} {

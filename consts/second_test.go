@@ -38,7 +38,7 @@ func (s sight) find(name string) int {
 // says is an expression's number, or nil of nothing.
 func (s sight) says(x api.Expr) *int64 {
 	switch {
-	case x.Kind == api.EInt && len(x.L) == 0, x.Kind == api.EBool && len(x.L) == 0:
+	case x.Kind == api.EInt && len(x.L) == 0, x.Kind == api.EBool && len(x.L) == 0 && (x.Num == 0 || x.Num == 1):
 		return &x.Num
 	case x.Kind == api.EVar && len(x.L) == 0:
 		if n, ok := s.facts[s.find(x.Name)]; ok {
