@@ -1,4 +1,4 @@
-// Package sample makes up programs that check takes, for the tests of the layers. Which one it makes hangs on the numbers that are picked, and on nothing else.
+// Package sample makes up programs that check takes, and codes that are sound, for the tests of the layers. Which one it makes hangs on the numbers that are picked, and on nothing else.
 package sample
 
 import "parallax/api"

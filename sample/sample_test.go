@@ -7,6 +7,7 @@ import (
 
 	"parallax/api"
 	"parallax/check"
+	"parallax/code"
 	"parallax/sample"
 	"parallax/syntax"
 )
@@ -79,5 +80,52 @@ func TestBent(t *testing.T) {
 	}
 	if q := sample.Bent(func(int) int { return 0 }, api.Prog{}); len(q.Procs) > 0 {
 		t.Errorf("%v of nothing", q)
+	}
+}
+
+func TestCodes(t *testing.T) {
+	ops := map[int]int{}
+	for seed := range uint64(2000) {
+		l, main := sample.Codes(rand.New(rand.NewPCG(seed, 3)).IntN)
+		if !code.Sound(l, main) {
+			t.Fatalf("seed %d: %v, %d are not sound", seed, l, main)
+		}
+		for k := range l {
+			heights, _ := code.Heights(l, k)
+			for place, i := range l[k].Ins {
+				if heights[place] >= 0 {
+					ops[i.Op]++
+				}
+			}
+		}
+		if again, at := sample.Codes(rand.New(rand.NewPCG(seed, 3)).IntN); !reflect.DeepEqual(l, again) || at != main {
+			t.Fatalf("%v, and then %v", l, again)
+		}
+	}
+	for op := api.OpPush; op <= api.MaxOp; op++ {
+		if ops[op] < 500 {
+			t.Errorf("instructions of the operation %d: %d", op, ops[op])
+		}
+	}
+}
+
+func TestBentCodes(t *testing.T) {
+	unsound := 0
+	for seed := range uint64(2000) {
+		r := rand.New(rand.NewPCG(seed, 4))
+		l, main := sample.Codes(r.IntN)
+		before := sample.CopyCodes(l)
+		if !code.Sound(sample.BentCodes(r.IntN, l), main) {
+			unsound++
+		}
+		if !reflect.DeepEqual(l, before) {
+			t.Fatalf("%v was changed", before)
+		}
+	}
+	if unsound < 800 || unsound > 1900 {
+		t.Errorf("%d are not sound", unsound)
+	}
+	if l := sample.BentCodes(func(int) int { return 0 }, nil); len(l) > 0 {
+		t.Errorf("%v of nothing", l)
 	}
 }
