@@ -333,7 +333,7 @@ func TestReportAgain(t *testing.T) { // P16.3, P16.7, by the second reading; P16
 
 func TestReportOfOneProgram(t *testing.T) { // P16.6
 	r := rand.New(rand.NewPCG(16, 4))
-	many := 0
+	many, empty := 0, 0
 	for range 800 {
 		s := someSetting(t, r)
 		p := s.progs[0]
@@ -358,7 +358,9 @@ func TestReportOfOneProgram(t *testing.T) { // P16.6
 			if e != api.OK {
 				t.Fatalf("Record: %d", e)
 			}
-			if trees[side], e = calls.Tree(trace.Ticks); e != api.OK {
+			if trees[side], e = calls.Tree(trace.Ticks); e == api.ErrForm && s.fuel == 0 { // no ticks are no run's
+				empty++
+			} else if e != api.OK {
 				t.Fatalf("%s\nTree: %d", s.text(), e)
 			}
 			nest(t, trace.Ticks, trees[side])
@@ -379,7 +381,7 @@ func TestReportOfOneProgram(t *testing.T) { // P16.6
 			many++
 		}
 	}
-	if many < 100 {
-		t.Errorf("%d have many calls", many)
+	if many < 100 || empty == 0 {
+		t.Errorf("%d have many calls, %d no ticks", many, empty)
 	}
 }

@@ -182,7 +182,7 @@ func fuzzed(t *testing.T, s []byte) []calls.Call {
 		}
 	}
 	got, e := calls.Tree(l)
-	if e != api.OK {
+	if isRun(l) != (e == api.OK) {
 		t.Fatalf("%v: %d", l, e)
 	}
 	return got

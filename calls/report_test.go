@@ -251,7 +251,8 @@ func TestReportOfOddBuilds(t *testing.T) { // P1: builds that Compile never answ
 			b.Codes = append(slices.Clone(b.Codes), oneMark(9))
 			b.Main = 2
 		},
-		func(b *gen.Build) { b.Codes = []api.Code{oneMark(api.MStmt), b.Codes[1]} }, // no run's ticks
+		func(b *gen.Build) { b.Codes = []api.Code{oneMark(api.MStmt), b.Codes[1]} },                  // no run's ticks
+		func(b *gen.Build) { b.Codes = []api.Code{{Ins: []api.Ins{{Op: api.OpLeave}}}, b.Codes[1]} }, // no ticks
 		func(b *gen.Build) { b.Codes = []api.Code{oneMark(api.MEnter), b.Codes[1]} },
 	} {
 		odd := b

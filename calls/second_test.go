@@ -30,14 +30,11 @@ func standing(l []api.Tick) []int {
 
 // isRun tells whether ticks are a run's.
 func isRun(l []api.Tick) bool {
-	for i, x := range l {
-		if i == 0 {
-			if x.Kind != api.MEnter || x.Depth != 1 {
-				return false
-			}
-			continue
-		}
-		open := standing(l[:i])
+	if len(l) == 0 || l[0].Kind != api.MEnter || l[0].Depth != 1 {
+		return false
+	}
+	for i, x := range l[1:] {
+		open := standing(l[:i+1])
 		if len(open) == 0 {
 			return false
 		}

@@ -27,8 +27,16 @@ func open(b gen.Build, input []int64, fuel int) (*side, api.Errno) {
 	s := &side{build: b, machine: g.Machine()}
 	s.tellAll(input, fuel)
 	s.info, _, _ = check.Check(b.Prog)
-	s.calls, e = Tree(ticks(s.machine.Copy()))
+	s.calls, e = callsOf(ticks(s.machine.Copy()))
 	return s, e
+}
+
+// callsOf are the calls of ticks up to a machine's end. Without fuel there are no ticks: that is no run to Tree, but nothing is wrong with a machine that makes no calls.
+func callsOf(l []api.Tick) ([]Call, api.Errno) {
+	if len(l) == 0 {
+		return nil, api.OK
+	}
+	return Tree(l)
 }
 
 // tellAll takes a plain build in the place of a lean one, which may not tell what was not kept when it was compiled: what builds tell is to play no part. Both tick alike.
