@@ -250,9 +250,9 @@ func clearOf(f decl.File, side int, p api.Prog) api.Errno {
 		for _, x := range b.When {
 			text, _ := syntax.PrintExpr(x)
 			row, _, _ := lex.Scan(text)
-			for _, token := range row {
+			for _, token := range row { // a bent program may have a name that is empty, as the end's text is
 				v, ok := t[b.Proc].vars[token.Text]
-				inScope := ok && int64(v.From) <= b.Mark && b.Mark <= int64(v.To)
+				inScope := ok && token.Kind == api.TName && int64(v.From) <= b.Mark && b.Mark <= int64(v.To)
 				if b.Side == side && inScope && !slices.Contains(kept, gen.Keep{Proc: b.Proc, Var: token.Text}) {
 					return api.ErrWatch
 				}

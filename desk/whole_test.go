@@ -192,7 +192,7 @@ func TestWrongCalls(t *testing.T) { // W5: a wrong answer is found at the call t
 func TestStops(t *testing.T) { // W6: one stops where it holds and nowhere else, forward and back
 	r := rand.New(rand.NewPCG(19, 7))
 	stopped := 0
-	for range 60 {
+	for range 250 {
 		w, d := both(t, r, "plain left")
 		if open := d.Line("open"); open[0] != "ok" {
 			continue
