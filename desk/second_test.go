@@ -180,7 +180,7 @@ func secondSaved(source string, input []int64, fuel int) string {
 	if e != api.OK {
 		return fmt.Sprintf("error %d", e)
 	}
-	h, e := fold.Run(p, input, fuel)
+	h, e := fold.Run(p, input, min(fuel, 4096)) // a history has no more; what is made up ends sooner
 	if e != api.OK {
 		return "no history"
 	}
